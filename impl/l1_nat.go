@@ -98,6 +98,10 @@ func (d digits) compare(e digits) int {
 	return 0
 }
 
+func (d digits) isOne() bool {
+	return len(d) == 1 && d[0] == 1
+}
+
 func (d digits) bitCount() int {
 	if len(d) == 0 {
 		return 0
@@ -191,6 +195,14 @@ func (d digits) shiftedDown(k int) digits {
 	gone := min(k/digitBits, len(d))
 	quotient, _ := d[gone:].cut(powersOfTwo[k%digitBits])
 	return quotient
+}
+
+func (d digits) timesTenTo(n int) digits {
+	for n > chunkSize {
+		d = d.scaled(powersOfTen[chunkSize], 0)
+		n -= chunkSize
+	}
+	return d.scaled(powersOfTen[n], 0)
 }
 
 // dividedBy is the quotient, down, and the rest; by is not 0.

@@ -90,8 +90,7 @@ func memoryPairs() [][2][]int {
 func TestMemory(t *testing.T) {
 	for _, c := range calls() {
 		for _, p := range memoryPairs() {
-			a, b := roomy(p[0]), roomy(p[1])
-			checkMemory(t, c, a, b, [][]int{slices.Clone(whole(a)), slices.Clone(whole(b))})
+			checkCall(t, c, roomy(p[0]), roomy(p[1]))
 		}
 	}
 }
@@ -102,21 +101,30 @@ func TestMemoryOverlap(t *testing.T) {
 		for _, size := range []int{0, 1, 2, 9, 128, 256} {
 			a := roomy(repeated(3, size))
 			for _, b := range [][]int{a, a[:size/2], a[size/2:], a[:min(1, size)]} {
-				before := [][]int{slices.Clone(whole(a)), slices.Clone(whole(b))}
-				checkMemory(t, c, a, b, before)
-				checkMemory(t, c, b, a, [][]int{before[1], before[0]})
+				checkCall(t, c, a, b)
+				checkCall(t, c, b, a)
 			}
 		}
 	}
 }
 
-func checkMemory(t *testing.T, c call, a, b []int, before [][]int) {
+func checkCall(t *testing.T, c call, a, b []int) {
 	t.Helper()
-	kept := func() bool { return slices.Equal(whole(a), before[0]) && slices.Equal(whole(b), before[1]) }
-	answer := c.run(a, b)
-	again := c.run(a, b)
+	said := c.name + " " + brief(a) + " " + brief(b)
+	checkMemory(t, said, [][]int{a, b}, func() [][]int { return c.run(a, b) })
+}
+
+// checkMemory asks, of a run with the lists args as arguments, that nothing is
+// written into them, and that no list of an answer shares memory with them,
+// with another list of the answer, or with those of another run.
+func checkMemory(t *testing.T, said string, args [][]int, run func() [][]int) {
+	t.Helper()
+	before := copies(args)
+	kept := func() bool { return slices.EqualFunc(copies(args), before, slices.Equal) }
+	answer := run()
+	again := run()
 	if !kept() {
-		t.Fatalf("%s %s %s: an argument is changed", c.name, brief(a), brief(b))
+		t.Fatalf("%s: an argument is changed", said)
 	}
 	then := copies(again)
 	for i, list := range answer {
@@ -124,21 +132,21 @@ func checkMemory(t *testing.T, c call, a, b []int, before [][]int) {
 		overwrite(list)
 		for j := range answer {
 			if j != i && !slices.Equal(whole(answer[j]), others[j]) {
-				t.Fatalf("%s %s %s: two lists share memory", c.name, brief(a), brief(b))
+				t.Fatalf("%s: two lists share memory", said)
 			}
 		}
 	}
 	if !kept() {
-		t.Fatalf("%s %s %s: the answer shares memory with an argument", c.name, brief(a), brief(b))
+		t.Fatalf("%s: the answer shares memory with an argument", said)
 	}
 	for i := range again {
 		if !slices.Equal(whole(again[i]), then[i]) {
-			t.Fatalf("%s %s %s: two answers share memory", c.name, brief(a), brief(b))
+			t.Fatalf("%s: two answers share memory", said)
 		}
 	}
-	for i, list := range c.run(a, b) {
+	for i, list := range run() {
 		if !same(list, again[i]) {
-			t.Fatalf("%s %s %s: something is kept between two calls", c.name, brief(a), brief(b))
+			t.Fatalf("%s: something is kept between two calls", said)
 		}
 	}
 }
