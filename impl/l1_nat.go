@@ -18,11 +18,14 @@ const (
 
 const (
 	digitBits = 16
-	// chunkSize is 4 because 10000 is the greatest power of ten that is still
-	// one digit: texts are written and read by short division and product.
+	// chunkBase is the greatest power of ten that is still one digit, so that
+	// texts are written and read by short division and product.
+	chunkBase = 10000
 	chunkSize = 4
 )
 
+// The tables serve timesTenTo and NatShift. Whatever else needs a power works
+// it out, so that most answers hang on no variable.
 var (
 	powersOfTen [chunkSize + 1]int
 	powersOfTwo [digitBits]int
@@ -186,20 +189,20 @@ func (d digits) cut(by int) (digits, int) {
 	return quotient.trimmed(), rest
 }
 
-func (d digits) shiftedUp(k int) digits {
-	scaled := d.scaled(powersOfTwo[k%digitBits], 0)
-	return append(make(digits, k/digitBits), scaled...).trimmed()
+// raised is d times a factor of one digit, with so many noughts put below it.
+func (d digits) raised(noughts int, factor int) digits {
+	return append(make(digits, noughts), d.scaled(factor, 0)...).trimmed()
 }
 
-func (d digits) shiftedDown(k int) digits {
-	gone := min(k/digitBits, len(d))
-	quotient, _ := d[gone:].cut(powersOfTwo[k%digitBits])
+// lowered is d without so many of its lowest digits, by one digit, down.
+func (d digits) lowered(gone int, by int) digits {
+	quotient, _ := d[min(gone, len(d)):].cut(by)
 	return quotient
 }
 
 func (d digits) timesTenTo(n int) digits {
 	for n > chunkSize {
-		d = d.scaled(powersOfTen[chunkSize], 0)
+		d = d.scaled(chunkBase, 0)
 		n -= chunkSize
 	}
 	return d.scaled(powersOfTen[n], 0)
@@ -257,10 +260,11 @@ func (d digits) root() digits {
 	if len(d) == 0 {
 		return nil
 	}
-	guess := digits{1}.shiftedUp((d.bitCount() + 1) / 2)
+	half := (d.bitCount() + 1) / 2
+	guess := digits{1}.raised(half/digitBits, 1<<(half%digitBits))
 	for {
 		quotient, _ := d.dividedBy(guess)
-		next := guess.plus(quotient).shiftedDown(1)
+		next, _ := guess.plus(quotient).cut(2)
 		if next.compare(guess) >= 0 {
 			return guess
 		}
@@ -279,9 +283,10 @@ func (d digits) gcd(e digits) digits {
 func (d digits) text() string {
 	var decimals []byte // the lowest first, as the divisions yield them
 	for len(d) > 0 {
-		quotient, chunk := d.cut(powersOfTen[chunkSize])
-		for i := range chunkSize {
-			decimals = append(decimals, byte('0'+chunk/powersOfTen[i]%10))
+		quotient, chunk := d.cut(chunkBase)
+		for range chunkSize {
+			decimals = append(decimals, byte('0'+chunk%10))
+			chunk /= 10
 		}
 		d = quotient
 	}
@@ -314,11 +319,12 @@ func digitsOfText(s string) digits {
 	var d digits
 	for len(s) > 0 {
 		size := min(chunkSize, len(s))
-		chunk := 0
+		chunk, power := 0, 1
 		for i := range size {
 			chunk = chunk*10 + int(s[i]-'0')
+			power *= 10
 		}
-		d = d.scaled(powersOfTen[size], chunk)
+		d = d.scaled(power, chunk)
 		s = s[size:]
 	}
 	return d
@@ -423,9 +429,9 @@ func NatShift(a []int, k int) ([]int, bool) {
 		return nil, false
 	}
 	if k < 0 {
-		return digits(a).shiftedDown(-k), true
+		return digits(a).lowered(-k/digitBits, powersOfTwo[-k%digitBits]), true
 	}
-	return digits(a).shiftedUp(k).limited()
+	return digits(a).raised(k/digitBits, powersOfTwo[k%digitBits]).limited()
 }
 
 // NatPow is a power.
